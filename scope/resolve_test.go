@@ -206,8 +206,8 @@ func TestNothingAsked(t *testing.T) {
 	}
 }
 
-// P20.3: a rate that there is not, of the first tax and of the last one; of a tax that
-// does not apply none is asked for.
+// P20.3: a rate that there is not, of the first tax, of the last one, of two; of a tax
+// that does not apply none is asked for.
 func TestNoRate(t *testing.T) {
 	for _, c := range []struct {
 		src string
@@ -216,6 +216,7 @@ func TestNoRate(t *testing.T) {
 		{"tax t in b round line up; tax u in w round line up; tax v in b round line up; rate t 1%, 2% above 5; rate u 1%; rate v 1%;", false},
 		{"tax t in b round line up; tax u in w round line up; tax v in b round line up; rate t 1%; rate u 1%, 2% above 5; rate v 1%;", true},
 		{"tax t in b round line up; tax u in w round line up; tax v in b round line up; rate t 1%; rate u 1%; rate v 1%, 2% above 5;", false},
+		{"tax t in b round line up; tax u in w round line up; tax v in p round line up; tax y in a round line up; tax z in b round line up; rate t 1%, 2% above 5; rate u 1%; rate v 1%; rate y 1%; rate z 2%, 1% above 5;", false},
 		{"tax t in b round line up; tax u in w round line up; tax v in b round line up; rate t 1%; rate u 1%; rate v 1%, 2% above 5; exempt v;", true},
 		{"tax t in b round line up; tax u in w round line up; tax v in b round line up; rate t 1%; rate u 1%; rate v 1%, 2% above 5; least v 1;", true},
 		{"tax t in b round line up; tax u in w round line up instead v; tax v in b round line up; rate t 1%; rate u 1%; rate v 1%, 2% above 5;", true},
